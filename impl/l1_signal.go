@@ -134,30 +134,14 @@ func SignalsText(l []int) (string, bool) {
 	if !areSignals(l) {
 		return "", false
 	}
-	words := make([]string, len(l))
-	for i, n := range l {
-		words[i] = strconv.Itoa(n)
-	}
-	return strings.Join(words, " "), true
+	return writeNumbers(l, " "), true
 }
 
 // ReadSignals returns the list with a SignalsText. It fails if there is none.
 func ReadSignals(s string) ([]int, bool) {
-	// Splitting the empty text would give one empty word instead of none.
-	if s == "" {
-		return nil, true
-	}
-	words := strings.SplitN(s, " ", MaxSignals+1)
-	if len(words) > MaxSignals {
+	l, ok := readNumbers(s, " ", MaxSignals)
+	if !ok || !areSignals(l) {
 		return nil, false
-	}
-	l := make([]int, len(words))
-	for i, word := range words {
-		n, ok := readNumber(word)
-		if !ok || !isSignal(n) {
-			return nil, false
-		}
-		l[i] = n
 	}
 	return l, true
 }
@@ -204,4 +188,33 @@ func readNumber(word string) (int, bool) {
 		return 0, false
 	}
 	return n, true
+}
+
+func writeNumbers(l []int, separator string) string {
+	words := make([]string, len(l))
+	for i, n := range l {
+		words[i] = strconv.Itoa(n)
+	}
+	return strings.Join(words, separator)
+}
+
+// readNumbers reads at most so many numbers as writeNumbers writes them.
+func readNumbers(s string, separator string, most int) ([]int, bool) {
+	// Splitting the empty text would give one empty word instead of none.
+	if s == "" {
+		return nil, true
+	}
+	words := strings.SplitN(s, separator, most+1)
+	if len(words) > most {
+		return nil, false
+	}
+	l := make([]int, len(words))
+	for i, word := range words {
+		n, ok := readNumber(word)
+		if !ok {
+			return nil, false
+		}
+		l[i] = n
+	}
+	return l, true
 }

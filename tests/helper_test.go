@@ -1,8 +1,12 @@
 package tests
 
 import (
+	"cmp"
+	"fmt"
 	"math"
+	"reflect"
 	"slices"
+	"strings"
 	"testing"
 )
 
@@ -75,5 +79,131 @@ func textsOver(alphabet string, most int, f func(s string)) {
 	}
 	for i := range len(alphabet) {
 		textsOver(alphabet, most-1, func(s string) { f(alphabet[i:i+1] + s) })
+	}
+}
+
+// spared returns a deep copy of a value in which every slice has spare capacity, filled with sentinels.
+func spared[T any](v T) T {
+	var c T
+	copySpared(reflect.ValueOf(&c).Elem(), reflect.ValueOf(&v).Elem())
+	return c
+}
+
+func copySpared(to reflect.Value, from reflect.Value) {
+	switch from.Kind() {
+	case reflect.Struct:
+		for i := range from.NumField() {
+			copySpared(to.Field(i), from.Field(i))
+		}
+	case reflect.Array:
+		for i := range from.Len() {
+			copySpared(to.Index(i), from.Index(i))
+		}
+	case reflect.Slice:
+		whole := reflect.MakeSlice(from.Type(), from.Len()+8, from.Len()+8)
+		for i := range whole.Len() {
+			if i < from.Len() {
+				copySpared(whole.Index(i), from.Index(i))
+			} else {
+				fillSentinel(whole.Index(i))
+			}
+		}
+		to.Set(whole.Slice(0, from.Len()))
+	default:
+		to.Set(from)
+	}
+}
+
+func fillSentinel(v reflect.Value) {
+	switch v.Kind() {
+	case reflect.Struct:
+		for i := range v.NumField() {
+			fillSentinel(v.Field(i))
+		}
+	case reflect.Slice:
+		v.Set(reflect.MakeSlice(v.Type(), 2, 4))
+		fillSentinel(v.Index(0))
+		fillSentinel(v.Index(1))
+	case reflect.Int:
+		v.SetInt(sentinel)
+	case reflect.String:
+		v.SetString("spare")
+	}
+}
+
+// memoryOf describes all that a value gives access to, the spare capacity of its slices included.
+func memoryOf(v reflect.Value) string {
+	var text strings.Builder
+	switch v.Kind() {
+	case reflect.Struct:
+		for i := range v.NumField() {
+			text.WriteString(memoryOf(v.Field(i)) + ";")
+		}
+		return "{" + text.String() + "}"
+	case reflect.Array, reflect.Slice:
+		whole := v
+		if v.Kind() == reflect.Slice {
+			whole = v.Slice(0, v.Cap())
+		}
+		for i := range whole.Len() {
+			text.WriteString(memoryOf(whole.Index(i)) + ",")
+		}
+		return fmt.Sprintf("%d/%d[%s]", v.Len(), whole.Len(), text.String())
+	}
+	return fmt.Sprintf("%#v", v.Interface())
+}
+
+// span is the memory of a slice, to its capacity.
+type span struct{ from, to uintptr }
+
+// spansOf lists the memory of every slice that a value gives access to.
+func spansOf(v reflect.Value) []span {
+	var spans []span
+	switch v.Kind() {
+	case reflect.Interface:
+		if !v.IsNil() {
+			return spansOf(v.Elem())
+		}
+	case reflect.Struct:
+		for i := range v.NumField() {
+			spans = append(spans, spansOf(v.Field(i))...)
+		}
+	case reflect.Array, reflect.Slice:
+		whole := v
+		if v.Kind() == reflect.Slice {
+			whole = v.Slice(0, v.Cap())
+			if v.Cap() > 0 {
+				spans = append(spans, span{v.Pointer(), v.Pointer() + uintptr(v.Cap())*v.Type().Elem().Size()})
+			}
+		}
+		for i := range whole.Len() {
+			spans = append(spans, spansOf(whole.Index(i))...)
+		}
+	}
+	return spans
+}
+
+// checkPure calls f twice with an argument whose slices have spare capacity. It fails if the argument's memory changes, if the results differ, or if any two slices of the argument and of the two results share memory.
+func checkPure[T any](t *testing.T, name string, argument T, f func(argument T) []any) {
+	t.Helper()
+	given := spared(argument)
+	before := memoryOf(reflect.ValueOf(given))
+	first, second := f(given), f(given)
+	if memoryOf(reflect.ValueOf(given)) != before {
+		t.Errorf("%s changed the memory of its argument %v", name, argument)
+	}
+	if fmt.Sprintf("%#v", first) != fmt.Sprintf("%#v", second) {
+		t.Errorf("%s(%v) = %v, and called again %v", name, argument, first, second)
+	}
+	var spans []span
+	for _, v := range []reflect.Value{reflect.ValueOf(given), reflect.ValueOf(first), reflect.ValueOf(second)} {
+		spans = append(spans, spansOf(v)...)
+	}
+	slices.SortFunc(spans, func(a span, b span) int { return cmp.Compare(a.from, b.from) })
+	for i := 1; i < len(spans); i++ {
+		if spans[i].from < spans[i-1].to {
+			t.Errorf("%s(%v): a result shares memory with the argument, another call's result or another part of itself", name, argument)
+			return
+		}
 	}
 }
