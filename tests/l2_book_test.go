@@ -163,9 +163,8 @@ func someSignals(one int, other int) [][]int {
 	return lists
 }
 
-// smallBooks calls f with every book of at most so many phrases that have 1 to 3 of two signals, in every subset once.
-func smallBooks(most int, f func(b impl.Book)) {
-	lists := someSignals(60, 1)
+// booksOutOf calls f with every book of at most so many phrases out of n ones, in every subset once. The function phrase makes the one with index i, for a place in the book.
+func booksOutOf(n int, most int, phrase func(place int, i int) impl.Phrase, f func(b impl.Book)) {
 	var choose func(b impl.Book, from int)
 	choose = func(b impl.Book, from int) {
 		if len(b.Phrases) > 0 {
@@ -174,12 +173,21 @@ func smallBooks(most int, f func(b impl.Book)) {
 		if len(b.Phrases) == most {
 			return
 		}
-		for i := from; i < len(lists); i++ {
-			x := impl.Phrase{Text: string(rune('a' + len(b.Phrases))), Signals: lists[i]}
+		for i := from; i < n; i++ {
+			x := phrase(len(b.Phrases), i)
 			choose(impl.Book{Phrases: append(slices.Clip(b.Phrases), x)}, i+1)
 		}
 	}
 	choose(impl.Book{}, 0)
+}
+
+// smallBooks calls f with every book of at most so many phrases that have 1 to 3 of two signals, in every subset once.
+func smallBooks(most int, f func(b impl.Book)) {
+	lists := someSignals(60, 1)
+	phrase := func(place int, i int) impl.Phrase {
+		return impl.Phrase{Text: string(rune('a' + place)), Signals: lists[i]}
+	}
+	booksOutOf(len(lists), most, phrase, f)
 }
 
 func TestBookExample(t *testing.T) {
