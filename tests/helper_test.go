@@ -71,6 +71,12 @@ func oddInts() []int {
 // repeated returns a list that has the value n so many times.
 func repeated(n int, times int) []int { return slices.Repeat([]int{n}, times) }
 
+// isZeroResult reports whether a result is the zero value of its type; a slice may be empty.
+func isZeroResult(result any) bool {
+	v := reflect.ValueOf(result)
+	return v.Kind() == reflect.Slice && v.Len() == 0 || v.IsZero()
+}
+
 // textsOver calls f with every string of at most so many letters of an alphabet.
 func textsOver(alphabet string, most int, f func(s string)) {
 	f("")

@@ -159,13 +159,12 @@ func spellCalls() map[string]func(a spellArguments) []any {
 	return calls
 }
 
-// checkZero fails if a call gives any result that is not the zero value of its type; a slice may be empty.
+// checkZero fails if a call gives any result that is not a zero one.
 func checkZero(t *testing.T, calls map[string]func(a spellArguments) []any, a spellArguments) {
 	t.Helper()
 	for name, call := range calls {
 		for _, result := range call(a) {
-			v := reflect.ValueOf(result)
-			if v.Kind() == reflect.Slice && v.Len() == 0 || v.IsZero() {
+			if isZeroResult(result) {
 				continue
 			}
 			t.Errorf("%s(%.200q, %.50q, %.100s, %.100s) gives %v", name, textOfBook(a.Book), a.Letters, decimal(a.Indices), decimal(a.Signals), result)
