@@ -213,3 +213,61 @@ func checkPure[T any](t *testing.T, name string, argument T, f func(argument T) 
 		}
 	}
 }
+
+// textOfResults shows results so that nil and empty slices look the same.
+func textOfResults(results []any) string {
+	var texts []string
+	for _, result := range results {
+		texts = append(texts, fmt.Sprint(result))
+	}
+	return strings.Join(texts, ", ")
+}
+
+// checkAllRefused fails if one of the named functions gives any result that is not a zero one.
+func checkAllRefused[T any](t *testing.T, calls map[string]func(argument T) []any, argument T, names ...string) {
+	t.Helper()
+	for _, name := range names {
+		for _, result := range calls[name](argument) {
+			if !isZeroResult(result) {
+				t.Errorf("%s(%.400s) gives %v", name, fmt.Sprintf("%v", argument), result)
+			}
+		}
+	}
+}
+
+// checkAllPure fails if a function is not pure with one of the arguments, if it sees what stands behind their slices, or if it succeeds less often than so many times.
+func checkAllPure[T any](t *testing.T, calls map[string]func(argument T) []any, arguments []T, least int) {
+	t.Helper()
+	done := map[string]int{}
+	for _, argument := range arguments {
+		for name, call := range calls {
+			checkPure(t, name, argument, call)
+			results := call(argument)
+			if textOfResults(results) != textOfResults(call(spared(argument))) {
+				t.Errorf("%s(%v) sees what stands behind its slices", name, argument)
+			}
+			if results[len(results)-1] == true {
+				done[name]++
+			}
+		}
+	}
+	for name := range calls {
+		if done[name] < least {
+			t.Errorf("%s succeeds %d times only", name, done[name])
+		}
+	}
+}
+
+// checkAccepted calls all functions with an argument. It fails if one of them gives other results when called again, or results that are not zero ones without success.
+func checkAccepted[T any](t *testing.T, calls map[string]func(argument T) []any, argument T) {
+	t.Helper()
+	for name, call := range calls {
+		first, second := call(argument), call(argument)
+		if !reflect.DeepEqual(first, second) {
+			t.Errorf("%s gives %v, and called again %v", name, first, second)
+		}
+		if first[len(first)-1] != true {
+			checkAllRefused(t, calls, argument, name)
+		}
+	}
+}

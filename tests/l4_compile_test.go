@@ -180,14 +180,7 @@ func codeCalls() map[string]func(a codeArguments) []any {
 // checkFails fails if one of the named functions gives any result that is not a zero one.
 func checkFails(t *testing.T, a codeArguments, names ...string) {
 	t.Helper()
-	calls := codeCalls()
-	for _, name := range names {
-		for _, result := range calls[name](a) {
-			if !isZeroResult(result) {
-				t.Errorf("%s(%.400s) gives %v", name, fmt.Sprintf("%v", a), result)
-			}
-		}
-	}
+	checkAllRefused(t, codeCalls(), a, names...)
 }
 
 // goodArguments returns arguments with which all functions of chapter 4 succeed.
@@ -975,20 +968,7 @@ func TestCodeFunctionsArePure(t *testing.T) {
 	if len(calls) != 9 {
 		t.Errorf("%d functions", len(calls))
 	}
-	done := map[string]int{}
-	for _, a := range manyArguments() {
-		for name, call := range calls {
-			checkPure(t, name, a, call)
-			if results := call(a); results[len(results)-1] == true {
-				done[name]++
-			}
-		}
-	}
-	for name := range calls {
-		if done[name] < 5 {
-			t.Errorf("%s succeeds %d times only", name, done[name])
-		}
-	}
+	checkAllPure(t, calls, manyArguments(), 5)
 }
 
 // TestCodeInOneMemory gives a code whose words lie in one array, one over another, with the indices behind them.
@@ -1027,17 +1007,7 @@ func TestCodeInOneMemory(t *testing.T) {
 func TestCodeFunctionsAcceptAllArguments(t *testing.T) {
 	calls := codeCalls()
 	numbers := append(oddInts(), 0, 1, 2, 6, 7, 20, 21, 60, 61)
-	check := func(a codeArguments) {
-		for name, call := range calls {
-			first, second := call(a), call(a)
-			if !reflect.DeepEqual(first, second) {
-				t.Errorf("%s gives %v, and called again %v", name, first, second)
-			}
-			if results := first; results[len(results)-1] != true {
-				checkFails(t, a, name)
-			}
-		}
-	}
+	check := func(a codeArguments) { checkAccepted(t, calls, a) }
 	check(codeArguments{})
 	for _, n := range numbers {
 		for _, m := range numbers {

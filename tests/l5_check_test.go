@@ -1,8 +1,6 @@
 package tests
 
 import (
-	"fmt"
-	"reflect"
 	"slices"
 	"testing"
 
@@ -140,14 +138,7 @@ func wordCalls() []string {
 // checkRefused fails if one of the named functions gives any result that is not a zero one.
 func checkRefused(t *testing.T, a checkArguments, names ...string) {
 	t.Helper()
-	calls := checkCalls()
-	for _, name := range names {
-		for _, result := range calls[name](a) {
-			if !isZeroResult(result) {
-				t.Errorf("%s(%.400s) gives %v", name, fmt.Sprintf("%v", a), result)
-			}
-		}
-	}
+	checkAllRefused(t, checkCalls(), a, names...)
 }
 
 func TestCheckExample(t *testing.T) {
@@ -809,20 +800,7 @@ func TestCheckFunctionsArePure(t *testing.T) {
 	if len(calls) != 10 || len(wordCalls()) != 9 {
 		t.Errorf("%d functions, %d of a word", len(calls), len(wordCalls()))
 	}
-	done := map[string]int{}
-	for _, a := range manyCheckArguments() {
-		for name, call := range calls {
-			checkPure(t, name, a, call)
-			if results := call(a); results[len(results)-1] == true {
-				done[name]++
-			}
-		}
-	}
-	for name := range calls {
-		if done[name] < 20 {
-			t.Errorf("%s succeeds %d times only", name, done[name])
-		}
-	}
+	checkAllPure(t, calls, manyCheckArguments(), 20)
 }
 
 // TestCheckInOneMemory gives words that lie in one array, one over another.
@@ -869,17 +847,7 @@ func TestCheckInOneMemory(t *testing.T) {
 
 func TestCheckFunctionsAcceptAllArguments(t *testing.T) {
 	calls := checkCalls()
-	check := func(a checkArguments) {
-		for name, call := range calls {
-			first, second := call(a), call(a)
-			if !reflect.DeepEqual(first, second) {
-				t.Errorf("%s gives %v, and called again %v", name, first, second)
-			}
-			if first[len(first)-1] != true {
-				checkRefused(t, a, name)
-			}
-		}
-	}
+	check := func(a checkArguments) { checkAccepted(t, calls, a) }
 	check(checkArguments{})
 	numbers := append(oddInts(), 0, 1, 2, 30, 49, 50, 51, 60, 61, 62, 122)
 	for _, n := range numbers {

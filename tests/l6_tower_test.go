@@ -3,7 +3,6 @@ package tests
 import (
 	"fmt"
 	"math"
-	"reflect"
 	"regexp"
 	"slices"
 	"strconv"
@@ -288,14 +287,7 @@ func callsWithNet() []string {
 // checkNetRefused fails if one of the named functions gives any result that is not a zero one.
 func checkNetRefused(t *testing.T, a netArguments, names ...string) {
 	t.Helper()
-	calls := netCalls()
-	for _, name := range names {
-		for _, result := range calls[name](a) {
-			if !isZeroResult(result) {
-				t.Errorf("%s(%.400s) gives %v", name, fmt.Sprintf("%v", a), result)
-			}
-		}
-	}
+	checkAllRefused(t, netCalls(), a, names...)
 }
 
 func TestTowerExample(t *testing.T) {
@@ -934,24 +926,7 @@ func TestNetFunctionsArePure(t *testing.T) {
 	if len(calls) != 12 || len(callsWithNet()) != 11 {
 		t.Errorf("%d functions, %d of a net", len(calls), len(callsWithNet()))
 	}
-	done := map[string]int{}
-	for _, a := range manyNetArguments() {
-		for name, call := range calls {
-			checkPure(t, name, a, call)
-			results := call(a)
-			if !reflect.DeepEqual(results, call(spared(a))) {
-				t.Errorf("%s(%v) sees what stands behind its slices", name, a)
-			}
-			if results[len(results)-1] == true {
-				done[name]++
-			}
-		}
-	}
-	for name := range calls {
-		if done[name] < 20 {
-			t.Errorf("%s succeeds %d times only", name, done[name])
-		}
-	}
+	checkAllPure(t, calls, manyNetArguments(), 20)
 }
 
 // TestNetsInOneMemory gives nets whose towers and links lie in the same arrays.
@@ -997,17 +972,7 @@ func TestNetsInOneMemory(t *testing.T) {
 
 func TestNetFunctionsAcceptAllArguments(t *testing.T) {
 	calls := netCalls()
-	check := func(a netArguments) {
-		for name, call := range calls {
-			first, second := call(a), call(a)
-			if !reflect.DeepEqual(first, second) {
-				t.Errorf("%s gives %v, and called again %v", name, first, second)
-			}
-			if first[len(first)-1] != true {
-				checkNetRefused(t, a, name)
-			}
-		}
-	}
+	check := func(a netArguments) { checkAccepted(t, calls, a) }
 	check(netArguments{})
 	numbers := append(oddInts(), 0, 1, 2, 15, 16, 17, 40, 41, 500, 501, 999, 1000)
 	for _, n := range numbers {

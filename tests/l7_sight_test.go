@@ -3,9 +3,7 @@ package tests
 import (
 	"fmt"
 	"math/big"
-	"reflect"
 	"slices"
-	"strings"
 	"testing"
 
 	"loop.example/g00940/impl"
@@ -274,23 +272,7 @@ func callsWithRefraction() []string {
 // checkSightRefused fails if one of the named functions gives any result that is not a zero one.
 func checkSightRefused(t *testing.T, a sightArguments, names ...string) {
 	t.Helper()
-	calls := sightCalls()
-	for _, name := range names {
-		for _, result := range calls[name](a) {
-			if !isZeroResult(result) {
-				t.Errorf("%s(%.400s) gives %v", name, fmt.Sprintf("%v", a), result)
-			}
-		}
-	}
-}
-
-// textOfResults shows results so that nil and empty slices look the same.
-func textOfResults(results []any) string {
-	var texts []string
-	for _, result := range results {
-		texts = append(texts, fmt.Sprint(result))
-	}
-	return strings.Join(texts, ", ")
+	checkAllRefused(t, sightCalls(), a, names...)
 }
 
 // checkResults fails if a function of chapter 7 does not give these results.
@@ -797,24 +779,7 @@ func TestSightFunctionsArePure(t *testing.T) {
 	if len(calls) != 10 || len(callsWithSight()) != 8 || len(callsWithRefraction()) != 7 {
 		t.Errorf("%d functions, %d of a sight, %d of a refraction", len(calls), len(callsWithSight()), len(callsWithRefraction()))
 	}
-	done := map[string]int{}
-	for _, a := range manySightArguments() {
-		for name, call := range calls {
-			checkPure(t, name, a, call)
-			results := call(a)
-			if !reflect.DeepEqual(results, call(spared(a))) {
-				t.Errorf("%s(%v) sees what stands behind its slices", name, a)
-			}
-			if results[len(results)-1] == true {
-				done[name]++
-			}
-		}
-	}
-	for name := range calls {
-		if done[name] < 20 {
-			t.Errorf("%s succeeds %d times only", name, done[name])
-		}
-	}
+	checkAllPure(t, calls, manySightArguments(), 20)
 }
 
 // TestSightsInOneMemory gives sights whose Grounds lie in the same array.
@@ -846,17 +811,7 @@ func TestSightsInOneMemory(t *testing.T) {
 
 func TestSightFunctionsAcceptAllArguments(t *testing.T) {
 	calls := sightCalls()
-	check := func(a sightArguments) {
-		for name, call := range calls {
-			first, second := call(a), call(a)
-			if !reflect.DeepEqual(first, second) {
-				t.Errorf("%s gives %v, and called again %v", name, first, second)
-			}
-			if first[len(first)-1] != true {
-				checkSightRefused(t, a, name)
-			}
-		}
-	}
+	check := func(a sightArguments) { checkAccepted(t, calls, a) }
 	check(sightArguments{})
 	numbers := append(oddInts(), 0, 1, 2, 3, 4, 20, 21, 998, 999, 1000, 3000, 3001)
 	for _, n := range numbers {
